@@ -1,5 +1,5 @@
 // Package seal: bodies, each between its length and its sum: pages are made so, and
-// so are heads of chunks.
+// so are heads of chunks and feet of files.
 package seal
 
 import (
