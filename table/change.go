@@ -4,6 +4,7 @@ import (
 	"slices"
 
 	"hypostyle/api"
+	"hypostyle/naming"
 	"hypostyle/nulls"
 	"hypostyle/pred"
 )
@@ -66,7 +67,7 @@ func Rename(t api.Table, old, name string) (api.Table, api.Errno) {
 		if at < 0 {
 			return api.ErrNone
 		}
-		if !isName(name) {
+		if !naming.IsName(name) {
 			return api.ErrForm
 		}
 		if other := place(own.Cols, name); other >= 0 && other != at {
