@@ -5,13 +5,11 @@ import (
 
 	"hypostyle/api"
 	"hypostyle/fixed"
+	"hypostyle/laid"
 	"hypostyle/seal"
 	"hypostyle/table"
 	"hypostyle/vary"
 )
-
-// lengthSize: bytes of the number that tells how many a foot has.
-const lengthSize = 4
 
 // Why somebody reads a foot no further: it is not of its form, or damaged.
 type (
@@ -54,7 +52,7 @@ func between(s string) string {
 // against what is there before anything is reckoned of it, so that nothing runs over.
 func parted(s string) (chunks, body string) {
 	inner := between(s)
-	end := len(inner) - lengthSize
+	end := len(inner) - laid.LengthSize
 	must(end >= 0)
 	long := fixed.Read(inner[end:])
 	must(long <= uint64(end))
@@ -132,25 +130,4 @@ func Foot(s string) ([]api.Column, []api.Group, api.Errno) {
 		return nil, nil, e
 	}
 	return cols, groups, api.OK
-}
-
-// number: the bytes of one in a foot.
-func number(n int) string { return vary.Write(uint64(n)) }
-
-// footed: the end of a file, behind its chunks: the foot, how many bytes that has, and
-// Magic (T1).
-func footed(cols []api.Column, groups []api.Group) string {
-	body := number(len(cols))
-	for _, c := range cols {
-		body += string([]byte{byte(c.Kind)}) + number(len(c.Name)) + c.Name
-	}
-	body += number(len(groups))
-	for _, g := range groups {
-		body += number(g.Rows)
-		for _, size := range g.Sizes {
-			body += number(size)
-		}
-	}
-	foot := seal.Put(body)
-	return foot + fixed.Write(uint64(len(foot)), lengthSize) + api.Magic
 }

@@ -5,6 +5,7 @@ import (
 	"hypostyle/naming"
 	"hypostyle/nodes"
 	"hypostyle/nulls"
+	"hypostyle/words"
 )
 
 // leaf: is a node of an op that there is of a column?
@@ -27,7 +28,7 @@ func node(n api.Named) api.Errno {
 	switch {
 	case !leaf(n.Op):
 		return form(n.Name == "" && unsaid(n.C))
-	case !naming.IsName(n.Name), opOf(n.Name) != 0:
+	case !naming.IsName(n.Name), words.OpOf(n.Name) != 0:
 		return api.ErrForm
 	case n.Op == api.Gone:
 		return form(unsaid(n.C))
@@ -55,7 +56,7 @@ func name(s api.Step) bool {
 func to(s api.Step) bool {
 	switch s.Kind {
 	case api.StepAdd:
-		return kindOf(s.To) != api.Null
+		return words.KindOf(s.To) != api.Null
 	case api.StepRename:
 		return naming.IsName(s.To)
 	}
@@ -65,7 +66,7 @@ func to(s api.Step) bool {
 // cell: is C what a step of its kind must have?
 func cell(s api.Step) api.Errno {
 	if s.Kind == api.StepAdd {
-		return nulls.Check(kindOf(s.To), []api.Cell{s.C})
+		return nulls.Check(words.KindOf(s.To), []api.Cell{s.C})
 	}
 	return form(unsaid(s.C))
 }

@@ -1,54 +1,39 @@
 package plan
 
 import (
-	"strconv"
 	"strings"
 
 	"hypostyle/api"
+	"hypostyle/words"
 )
-
-// spelt: a cell as a word (V2).
-func spelt(c api.Cell) string {
-	switch c.Kind {
-	case api.Number:
-		return strconv.FormatUint(c.N, 10)
-	case api.Text:
-		b := []byte(sign)
-		for i := range len(c.S) {
-			b = append(b, digits[c.S[i]>>4], digits[c.S[i]&15])
-		}
-		return string(b)
-	}
-	return null
-}
 
 // lineOf a step that Check let pass (V2).
 func lineOf(s api.Step) string {
 	var all []string
-	put := func(words ...string) { all = append(all, words...) }
+	put := func(more ...string) { all = append(all, more...) }
 	switch s.Kind {
 	case api.StepAdd:
-		put(add, s.Name, s.To, spelt(s.C))
+		put(add, s.Name, s.To, words.Cell(s.C))
 	case api.StepDrop:
 		put(drop, s.Name)
 	case api.StepRename:
 		put(rename, s.Name, s.To)
 	case api.StepRedact:
-		put(redact, s.Name, wherever)
+		put(redact, s.Name, words.Where)
 	case api.StepKeep:
-		put(keep, wherever)
+		put(keep, words.Where)
 	}
 	for _, n := range s.Where {
 		switch {
 		case !leaf(n.Op):
-			put(wordOf(n.Op))
+			put(words.Op(n.Op))
 		case n.Op == api.Gone:
-			put(n.Name, wordOf(n.Op))
+			put(n.Name, words.Op(n.Op))
 		default:
-			put(n.Name, wordOf(n.Op), spelt(n.C))
+			put(n.Name, words.Op(n.Op), words.Cell(n.C))
 		}
 	}
-	return strings.Join(all, blank) + end
+	return strings.Join(all, words.Blank) + words.End
 }
 
 // Print: the text of a plan (V3).
